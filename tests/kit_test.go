@@ -1,0 +1,155 @@
+package tests
+
+import (
+	"fmt"
+	"math"
+	"math/rand"
+	"strings"
+	"testing"
+
+	"loop.example/g01249/impl"
+)
+
+// row writes results so that two rows are equal if all numbers are the same, to the last bit.
+func row(values ...any) string {
+	words := make([]string, len(values))
+	for i, value := range values {
+		words[i] = word(value)
+	}
+	return strings.Join(words, " ")
+}
+
+func word(value any) string {
+	switch x := value.(type) {
+	case float32:
+		if math.IsNaN(float64(x)) {
+			return "nan"
+		}
+		return fmt.Sprintf("%08x(%v)", math.Float32bits(x), x)
+	case impl.Point:
+		return "[" + row(x[0], x[1], x[2]) + "]"
+	case impl.Plane:
+		return "{" + row(x.N, x.D) + "}"
+	case string:
+		return fmt.Sprintf("%q", x)
+	case int64, bool:
+		return fmt.Sprint(x)
+	}
+	panic(fmt.Sprintf("row does not write a %T", value))
+}
+
+// same fails if the results are not the same as those wanted.
+func same(t *testing.T, name string, got, want []any) {
+	t.Helper()
+	if g, w := row(got...), row(want...); g != w {
+		t.Errorf("%s: got %s, want %s", name, g, w)
+	}
+}
+
+// all makes a list of the results of a call.
+func all(values ...any) []any { return values }
+
+var (
+	infinite  = float32(math.Inf(1))
+	nan       = float32(math.NaN())
+	minusZero = float32(math.Copysign(0, -1))
+	tiniest   = float32(math.SmallestNonzeroFloat32)
+	greatest  = float32(math.MaxFloat32)
+)
+
+// above and below are the next numbers.
+func above(a float32) float32 { return math.Nextafter32(a, infinite) }
+func below(a float32) float32 { return math.Nextafter32(a, -infinite) }
+
+// limit is the size below which lengths are too small.
+const limit = float32(1.0 / 1048576)
+
+// maker makes arguments, the same ones in each run.
+type maker struct{ *rand.Rand }
+
+func newMaker() maker { return maker{rand.New(rand.NewSource(20))} }
+
+// number makes any number: a special one, any bits, or an ordinary one.
+func (m maker) number() float32 {
+	special := []float32{
+		0, minusZero, 1, -1, 0.5, 3, impl.MaxSize, -impl.MaxSize, above(impl.MaxSize),
+		limit, below(limit), tiniest, -tiniest, 0x1p-126, below(0x1p-126),
+		greatest, -greatest, infinite, -infinite, nan,
+	}
+	switch m.Intn(4) {
+	case 0:
+		return special[m.Intn(len(special))]
+	case 1:
+		return math.Float32frombits(m.Uint32())
+	}
+	return m.plain()
+}
+
+// plain makes a plain number.
+func (m maker) plain() float32 {
+	special := []float32{0, minusZero, 1, -1, 0.5, impl.MaxSize, -impl.MaxSize, limit, 0x1p-10, tiniest}
+	switch m.Intn(8) {
+	case 0:
+		return special[m.Intn(len(special))]
+	case 1:
+		return m.within(impl.MaxSize)
+	case 2:
+		return m.within(0.001)
+	}
+	return m.within(10)
+}
+
+// within makes a number that is at most so great.
+func (m maker) within(size float32) float32 {
+	return float32((m.Float64()*2 - 1) * float64(size))
+}
+
+func (m maker) anyPoint() impl.Point { return impl.Point{m.number(), m.number(), m.number()} }
+
+func (m maker) validPoint() impl.Point { return impl.Point{m.plain(), m.plain(), m.plain()} }
+
+// point makes a point that is mostly valid.
+func (m maker) point() impl.Point {
+	if m.Intn(10) == 0 {
+		return m.anyPoint()
+	}
+	return m.validPoint()
+}
+
+func (m maker) pointWithin(size float32) impl.Point {
+	return impl.Point{m.within(size), m.within(size), m.within(size)}
+}
+
+// plane makes a plane that is mostly valid; some have an N that is a little too long or too short.
+func (m maker) plane() impl.Plane {
+	if m.Intn(20) == 0 {
+		return impl.Plane{N: m.anyPoint(), D: m.number()}
+	}
+	x := m.validPlane()
+	if m.Intn(4) == 0 {
+		x.N = wantScale(x.N, 1+m.within(0.0015))
+	}
+	return x
+}
+
+func (m maker) validPlane() impl.Plane {
+	for {
+		n, code := wantUnit(m.pointWithin(10))
+		if code == impl.OK {
+			return impl.Plane{N: n, D: m.plain()}
+		}
+	}
+}
+
+// turns makes a number of turns, most of them permitted.
+func (m maker) turns() float32 {
+	switch m.Intn(4) {
+	case 0:
+		return m.number()
+	case 1:
+		return float32(m.Intn(8001)-4000) / 4
+	case 2:
+		return m.within(1000)
+	}
+	return m.within(2)
+}
