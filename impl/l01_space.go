@@ -277,6 +277,11 @@ func MeetLine(x Plane, a, b Point) (Point, float32, int64) {
 	if !ValidPlane(x) || !ValidPoint(a) || !ValidPoint(b) {
 		return Point{}, 0, ErrInvalid
 	}
+	return x.meetLine(a, b)
+}
+
+// meetLine is MeetLine for points that need not be valid.
+func (x Plane) meetLine(a, b Point) (Point, float32, int64) {
 	e := x.N.dot(b.less(a))
 	if isTooSmall(e) {
 		return Point{}, 0, ErrState
@@ -337,6 +342,11 @@ func TurnAround(axis Point, turns float32, p Point) (Point, int64) {
 	if !ValidPoint(axis) || !ValidPoint(p) {
 		return Point{}, ErrInvalid
 	}
+	return turnAround(axis, turns, p)
+}
+
+// turnAround is TurnAround for points that need not be valid.
+func turnAround(axis Point, turns float32, p Point) (Point, int64) {
 	if !(turns >= -maxTurns && turns <= maxTurns) {
 		return Point{}, ErrRange
 	}

@@ -30,12 +30,37 @@ func word(value any) string {
 		return "[" + row(x[0], x[1], x[2]) + "]"
 	case impl.Plane:
 		return "{" + row(x.N, x.D) + "}"
+	case impl.Spot:
+		return "<" + row(x[0], x[1]) + ">"
+	case impl.Camera:
+		return "{" + row(x.Eye, x.At, x.Up, x.Far, x.Near) + "}"
+	case impl.Frame:
+		return "{" + row(x.Right, x.Up, x.Ahead) + "}"
+	case [2]impl.Point:
+		return "(" + row(x[0], x[1]) + ")"
+	case [2]impl.Spot:
+		return "(" + row(x[0], x[1]) + ")"
+	case [][2]impl.Point:
+		return rowOfList(x)
+	case [][2]impl.Spot:
+		return rowOfList(x)
+	case []int64:
+		return rowOfList(x)
 	case string:
 		return fmt.Sprintf("%q", x)
 	case int64, bool:
 		return fmt.Sprint(x)
 	}
 	panic(fmt.Sprintf("row does not write a %T", value))
+}
+
+// rowOfList writes a list; one that is nil is written as one that is empty.
+func rowOfList[A any](list []A) string {
+	words := make([]string, len(list))
+	for i, x := range list {
+		words[i] = word(x)
+	}
+	return "(" + strings.Join(words, " ") + ")"
 }
 
 // same fails if the results are not the same as those wanted.
@@ -153,3 +178,83 @@ func (m maker) turns() float32 {
 	}
 	return m.within(2)
 }
+
+// spot makes a spot that is mostly plain.
+func (m maker) spot() impl.Spot {
+	if m.Intn(10) == 0 {
+		return impl.Spot{m.number(), m.number()}
+	}
+	return impl.Spot{m.plain(), m.plain()}
+}
+
+func (m maker) spotWithin(size float32) impl.Spot { return impl.Spot{m.within(size), m.within(size)} }
+
+// camera makes a camera that is mostly valid.
+func (m maker) camera() impl.Camera {
+	c := m.ordinaryCamera()
+	switch m.Intn(8) {
+	case 0:
+		c.Eye, c.At = m.pointWithin(impl.MaxSize), m.pointWithin(impl.MaxSize)
+	case 1:
+		c.Eye, c.At, c.Up = m.point(), m.point(), m.point()
+	case 2:
+		c.Far, c.Near = m.number(), m.number()
+	case 3:
+		c.Far, c.Near = m.distance(), m.distance()
+	case 4:
+		return m.leaningCamera()
+	case 5:
+		return m.squareCamera()
+	}
+	return c
+}
+
+// ordinaryCamera makes a valid camera; Up does not nearly look ahead.
+func (m maker) ordinaryCamera() impl.Camera {
+	for {
+		c := impl.Camera{
+			Eye: m.pointWithin(10), At: m.pointWithin(10), Up: m.pointWithin(3),
+			Far: 0.1 + m.Float32()*4, Near: 0.1 + m.Float32(),
+		}
+		ahead, code := wantUnitOfAny(numberwise(difference, c.At, c.Eye))
+		up, upCode := wantUnitOfAny(c.Up)
+		if code == impl.OK && upCode == impl.OK && wantLength(wantCross(ahead, up)) > 0.2 {
+			return c
+		}
+	}
+}
+
+// distance makes a Far or a Near that is valid, some of them only just.
+func (m maker) distance() float32 {
+	special := []float32{1.0 / 64, above(1.0 / 64), 0.5, 1, 1000, impl.MaxSize}
+	return special[m.Intn(len(special))]
+}
+
+// leaningCamera makes a camera whose Up looks ahead so nearly that its frame hardly stands square.
+func (m maker) leaningCamera() impl.Camera {
+	c := m.ordinaryCamera()
+	by := m.within([]float32{1, 1000, 100000}[m.Intn(3)])
+	c.Up = wantScale(numberwise(difference, c.At, c.Eye), by)
+	if m.Intn(2) == 0 {
+		c.Up = numberwise(sum, c.Up, m.pointWithin(0.001))
+	}
+	return c
+}
+
+// squareCamera makes a camera that looks along an axis, so that many numbers are zeros.
+func (m maker) squareCamera() impl.Camera {
+	c := impl.Camera{Up: m.axis(), Far: m.distance(), Near: m.distance()}
+	c.Eye = impl.Point{m.nothing(), m.nothing(), m.nothing()}
+	c.At = numberwise(sum, c.Eye, m.axis())
+	return c
+}
+
+// axis makes a direction along an axis.
+func (m maker) axis() impl.Point {
+	p := impl.Point{m.nothing(), m.nothing(), m.nothing()}
+	p[m.Intn(3)] = []float32{1, -1}[m.Intn(2)]
+	return p
+}
+
+// nothing makes one of both zeros.
+func (m maker) nothing() float32 { return []float32{0, minusZero}[m.Intn(2)] }

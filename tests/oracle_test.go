@@ -142,6 +142,11 @@ func wantMeetLine(x impl.Plane, a, b impl.Point) (impl.Point, float32, int64) {
 	if invalid(x, a, b) {
 		return impl.Point{}, 0, impl.ErrInvalid
 	}
+	return wantMeetLineOfAny(x, a, b)
+}
+
+// wantMeetLineOfAny is MeetLine of points that need not be valid.
+func wantMeetLineOfAny(x impl.Plane, a, b impl.Point) (impl.Point, float32, int64) {
 	e := wantDot(x.N, numberwise(difference, b, a))
 	if math.Abs(float64(e)) < float64(limit) {
 		return impl.Point{}, 0, impl.ErrState
@@ -192,7 +197,12 @@ func wantTurn(axis impl.Point, turns float32, p impl.Point) (impl.Point, int64) 
 	if !finite(turns) || turns < -1000 || turns > 1000 {
 		return impl.Point{}, impl.ErrRange
 	}
-	a, code := wantUnit(axis)
+	return wantTurnOfAny(axis, turns, p)
+}
+
+// wantTurnOfAny is TurnAround of points that need not be valid.
+func wantTurnOfAny(axis impl.Point, turns float32, p impl.Point) (impl.Point, int64) {
+	a, code := wantUnitOfAny(axis)
 	if code != impl.OK {
 		return impl.Point{}, code
 	}
