@@ -44,11 +44,27 @@ func word(value any) string {
 		return rowOfList(x)
 	case [][2]impl.Spot:
 		return rowOfList(x)
+	case impl.Solid:
+		return "{" + row(x.Corners, x.Faces) + "}"
+	case impl.Hit:
+		return "{" + row(x.Face, x.Share, x.At) + "}"
+	case []impl.Solid:
+		return rowOfList(x)
+	case []impl.Point:
+		return rowOfList(x)
+	case [][]int16:
+		return rowOfList(x)
+	case []int16:
+		return rowOfList(x)
+	case [][2]int16:
+		return rowOfList(x)
+	case [2]int16:
+		return "(" + row(x[0], x[1]) + ")"
 	case []int64:
 		return rowOfList(x)
 	case string:
 		return fmt.Sprintf("%q", x)
-	case int64, bool:
+	case int64, int16, bool:
 		return fmt.Sprint(x)
 	}
 	panic(fmt.Sprintf("row does not write a %T", value))

@@ -15,12 +15,14 @@ type call struct {
 	run  func() []any
 }
 
-// callsWithCodes are calls of all functions that return a code.
-func callsWithCodes(m maker) []call { return append(spaceCallsWithCodes(m), viewCallsWithCodes(m)...) }
-
-// callsWithoutCodes are calls of all the others.
-func callsWithoutCodes(m maker) []call {
-	return append(spaceCallsWithoutCodes(m), viewCallsWithoutCodes(m)...)
+// chapters are the calls of all functions, those that return a code and the others, and how often they are tried.
+var chapters = []struct {
+	rounds                  int
+	withCodes, withoutCodes func(m maker) []call
+}{
+	{rounds, spaceCallsWithCodes, spaceCallsWithoutCodes},
+	{rounds, viewCallsWithCodes, viewCallsWithoutCodes},
+	{rounds / 10, solidCallsWithCodes, solidCallsWithoutCodes},
 }
 
 // spaceCallsWithCodes are calls of all functions of chapter 1 that return a code.
@@ -81,53 +83,65 @@ func resultsOf(calls []call) []string {
 }
 
 func TestP1EqualResultsForEqualArguments(t *testing.T) {
-	m, again := newMaker(), newMaker()
-	for range rounds / 4 {
-		calls := append(callsWithCodes(m), callsWithoutCodes(m)...)
-		first := resultsOf(calls)
-		others := append(callsWithCodes(again), callsWithoutCodes(again)...)
-		for i, result := range resultsOf(others) {
-			if result != first[i] {
-				t.Fatalf("%s: got %s, and then %s", calls[i].name, first[i], result)
+	for _, chapter := range chapters {
+		m, again := newMaker(), newMaker()
+		for range chapter.rounds / 4 {
+			calls := append(chapter.withCodes(m), chapter.withoutCodes(m)...)
+			first := resultsOf(calls)
+			others := append(chapter.withCodes(again), chapter.withoutCodes(again)...)
+			for i, result := range resultsOf(others) {
+				if result != first[i] {
+					t.Fatalf("%s: got %s, and then %s", calls[i].name, first[i], result)
+				}
 			}
-		}
-		for i, result := range resultsOf(calls) {
-			if result != first[i] {
-				t.Fatalf("%s: got %s, and later %s", calls[i].name, first[i], result)
+			for i, result := range resultsOf(calls) {
+				if result != first[i] {
+					t.Fatalf("%s: got %s, and later %s", calls[i].name, first[i], result)
+				}
 			}
 		}
 	}
 }
 
 func TestP1OtherResultsAreZeroWithAnError(t *testing.T) {
-	m := newMaker()
-	found := map[string]int{}
-	for range rounds {
-		for _, c := range callsWithCodes(m) {
-			results := c.run()
-			last := len(results) - 1
-			code := results[last].(int64)
-			if code == impl.OK {
-				checkFinite(t, c.name, results[:last])
-				continue
-			}
-			found[c.name]++
-			for _, result := range results[:last] {
-				// A list that is nil is the same as one that is empty.
-				if row(result) != row(reflect.Zero(reflect.TypeOf(result)).Interface()) {
-					t.Fatalf("%s: got %s with the code %d", c.name, row(result), code)
+	for _, chapter := range chapters {
+		m := newMaker()
+		found := map[string]int{}
+		for range chapter.rounds {
+			for _, c := range chapter.withCodes(m) {
+				if hasError(t, c) {
+					found[c.name]++
 				}
 			}
 		}
-	}
-	for _, c := range callsWithCodes(m) {
-		if found[c.name] == 0 && c.name != "ReadNumber" {
-			t.Errorf("%s: there was no error", c.name)
+		for _, c := range chapter.withCodes(m) {
+			if found[c.name] == 0 && c.name != "ReadNumber" {
+				t.Errorf("%s: there was no error", c.name)
+			}
 		}
 	}
 }
 
-// checkFinite fails if a number is not finite, or a plane or a camera not valid; numbers that are read may be any.
+// hasError makes a call and reports whether there is an error; it fails if the other results are not as they should be.
+func hasError(t *testing.T, c call) bool {
+	t.Helper()
+	results := c.run()
+	last := len(results) - 1
+	code := results[last].(int64)
+	if code == impl.OK {
+		checkFinite(t, c.name, results[:last])
+		return false
+	}
+	for _, result := range results[:last] {
+		// A list that is nil is the same as one that is empty.
+		if row(result) != row(reflect.Zero(reflect.TypeOf(result)).Interface()) {
+			t.Fatalf("%s: got %s with the code %d", c.name, row(result), code)
+		}
+	}
+	return true
+}
+
+// checkFinite fails if a number is not finite, or a plane, a camera or a solid not valid; numbers that are read may be any.
 func checkFinite(t *testing.T, name string, results []any) {
 	t.Helper()
 	text := row(results...)
@@ -138,6 +152,8 @@ func checkFinite(t *testing.T, name string, results []any) {
 			good = good && impl.ValidPlane(x)
 		case impl.Camera:
 			good = good && impl.ValidCamera(x)
+		case impl.Solid:
+			good = good && impl.ValidSolid(x)
 		}
 	}
 	if !good {
