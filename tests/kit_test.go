@@ -52,6 +52,14 @@ func word(value any) string {
 		return rowOfList(x)
 	case []impl.Point:
 		return rowOfList(x)
+	case impl.Lamp:
+		return "{" + row(x.At, x.Sun, x.Strong) + "}"
+	case []impl.Lamp:
+		return rowOfList(x)
+	case [2]float32:
+		return "<" + row(x[0], x[1]) + ">"
+	case [][2]float32:
+		return rowOfList(x)
 	case [][]int16:
 		return rowOfList(x)
 	case []int16:

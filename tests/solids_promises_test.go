@@ -93,6 +93,14 @@ func scribble(result any) {
 		for i := range x[:cap(x)] {
 			x[:cap(x)][i] = -9
 		}
+	case []impl.Point:
+		for i := range x[:cap(x)] {
+			x[:cap(x)][i] = impl.Point{-9, -9, -9}
+		}
+	case [][2]float32:
+		for i := range x[:cap(x)] {
+			x[:cap(x)][i] = [2]float32{-9, -9}
+		}
 	}
 }
 

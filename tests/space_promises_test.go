@@ -23,6 +23,7 @@ var chapters = []struct {
 	{rounds, spaceCallsWithCodes, spaceCallsWithoutCodes},
 	{rounds, viewCallsWithCodes, viewCallsWithoutCodes},
 	{rounds / 10, solidCallsWithCodes, solidCallsWithoutCodes},
+	{rounds / 10, shadowCallsWithCodes, shadowCallsWithoutCodes},
 }
 
 // spaceCallsWithCodes are calls of all functions of chapter 1 that return a code.
