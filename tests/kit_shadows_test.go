@@ -76,6 +76,9 @@ func (m maker) fewSolids() []impl.Solid {
 			list[i] = m.squareSolid()
 		}
 	}
+	if m.Intn(12) == 0 {
+		list[m.Intn(len(list))] = []impl.Solid{angle(), notched()}[m.Intn(2)]
+	}
 	return list
 }
 

@@ -262,8 +262,9 @@ func wantHides(l impl.Lamp, s impl.Solid, p impl.Point) bool {
 	return share >= 0 && (l.Sun || share < 1)
 }
 
-// codeOfRoom is the code that all functions of lamps, lists of solids and points have first.
-func codeOfRoom(lamps []impl.Lamp, list []impl.Solid, points ...impl.Point) int64 {
+// codeOfRoom is the code that all functions of lamps, lists of solids and points have first;
+// there tells whether what else they are asked for, a face or parts, is there.
+func codeOfRoom(lamps []impl.Lamp, list []impl.Solid, there bool, points ...impl.Point) int64 {
 	for _, l := range lamps {
 		if !wantValidLamp(l) {
 			return codeInvalid
@@ -279,15 +280,22 @@ func codeOfRoom(lamps []impl.Lamp, list []impl.Solid, points ...impl.Point) int6
 			return codeInvalid
 		}
 	}
-	if len(lamps) > 6 || len(list) > 6 {
+	if len(lamps) > 6 || len(list) > 6 || !there {
 		return codeRange
 	}
-	for _, s := range list {
-		if !wantConvex(s) {
-			return codeState
-		}
+	if !allWantConvex(list) {
+		return codeState
 	}
 	return codeOK
+}
+
+func allWantConvex(list []impl.Solid) bool {
+	for _, s := range list {
+		if !wantConvex(s) {
+			return false
+		}
+	}
+	return true
 }
 
 // firstHiding is the index of the first solid that hides a point, or -1.
@@ -301,14 +309,14 @@ func firstHiding(l impl.Lamp, list []impl.Solid, p impl.Point) int64 {
 }
 
 func wantIsLit(l impl.Lamp, list []impl.Solid, p impl.Point) (bool, int64) {
-	if code := codeOfRoom([]impl.Lamp{l}, list, p); code != codeOK {
+	if code := codeOfRoom([]impl.Lamp{l}, list, true, p); code != codeOK {
 		return false, code
 	}
 	return firstHiding(l, list, p) < 0, codeOK
 }
 
 func wantWhatHides(l impl.Lamp, list []impl.Solid, p impl.Point) (int64, int64) {
-	if code := codeOfRoom([]impl.Lamp{l}, list, p); code != codeOK {
+	if code := codeOfRoom([]impl.Lamp{l}, list, true, p); code != codeOK {
 		return 0, code
 	}
 	if i := firstHiding(l, list, p); i >= 0 {
@@ -343,18 +351,16 @@ func lightOf(lamps []impl.Lamp, list []impl.Solid, p, n impl.Point) (float32, in
 }
 
 func wantLight(lamps []impl.Lamp, list []impl.Solid, p, n impl.Point) (float32, int64) {
-	if code := codeOfRoom(lamps, list, p, n); code != codeOK {
+	if code := codeOfRoom(lamps, list, true, p, n); code != codeOK {
 		return 0, code
 	}
 	return lightOf(lamps, list, p, n)
 }
 
 func wantFaceLight(lamps []impl.Lamp, list []impl.Solid, solid, face int64) (float32, int64) {
-	if code := codeOfRoom(lamps, list); code != codeOK {
+	there := solid >= 0 && solid < int64(len(list)) && face >= 0 && face < int64(len(list[solid].Faces))
+	if code := codeOfRoom(lamps, list, there); code != codeOK {
 		return 0, code
-	}
-	if solid < 0 || solid >= int64(len(list)) || face < 0 || face >= int64(len(list[solid].Faces)) {
-		return 0, codeRange
 	}
 	s := list[solid]
 	var corners []impl.Point
@@ -380,11 +386,8 @@ func partsOf(a, b, c impl.Point, parts int64) []impl.Point {
 }
 
 func wantLitShare(l impl.Lamp, list []impl.Solid, a, b, c impl.Point, parts int64) (float32, int64) {
-	if code := codeOfRoom([]impl.Lamp{l}, list, a, b, c); code != codeOK {
+	if code := codeOfRoom([]impl.Lamp{l}, list, parts >= 1 && parts <= 16, a, b, c); code != codeOK {
 		return 0, code
-	}
-	if parts < 1 || parts > 16 {
-		return 0, codeRange
 	}
 	points := partsOf(a, b, c, parts)
 	lit := 0
@@ -397,11 +400,8 @@ func wantLitShare(l impl.Lamp, list []impl.Solid, a, b, c impl.Point, parts int6
 }
 
 func wantBrightest(lamps []impl.Lamp, list []impl.Solid, a, b, c, n impl.Point, parts int64) (impl.Point, float32, int64) {
-	if code := codeOfRoom(lamps, list, a, b, c, n); code != codeOK {
+	if code := codeOfRoom(lamps, list, parts >= 1 && parts <= 16, a, b, c, n); code != codeOK {
 		return impl.Point{}, 0, code
-	}
-	if parts < 1 || parts > 16 {
-		return impl.Point{}, 0, codeRange
 	}
 	points := partsOf(a, b, c, parts)
 	lights := make([]float32, len(points))

@@ -128,7 +128,7 @@ func TestWhatIsLitToTheLastBit(t *testing.T) {
 func TestLightToTheLastBit(t *testing.T) {
 	t.Parallel()
 	m, found := newMaker(), codesFound{}
-	several := 0
+	several, ahead := 0, 0
 	for range rounds / 4 {
 		lamps, list, n := m.lamps(), m.fewSolids(), m.pointWithin(2)
 		p := m.placeBeside(list)
@@ -151,9 +151,13 @@ func TestLightToTheLastBit(t *testing.T) {
 		args := row(lamps, list, p, n, solid, face)
 		light, code := impl.LightAt(lamps, list, p, n)
 		found.compare(t, "LightAt", args, all(light, code), two(wantLight(lamps, list, p, n)))
-		found.compare(t, "FaceLight", args, all(impl.FaceLight(lamps, list, solid, face)), two(wantFaceLight(lamps, list, solid, face)))
+		ofFace, faceCode := impl.FaceLight(lamps, list, solid, face)
+		found.compare(t, "FaceLight", args, all(ofFace, faceCode), two(wantFaceLight(lamps, list, solid, face)))
 		if t.Failed() {
 			return
+		}
+		if faceCode == impl.ErrRange && len(lamps) <= impl.MaxLamps && len(list) <= impl.MaxSolids && !allWantConvex(list) {
+			ahead++
 		}
 		if len(lamps) > 2 && light > 0 {
 			several++
@@ -161,6 +165,9 @@ func TestLightToTheLastBit(t *testing.T) {
 	}
 	if several < 100 {
 		t.Errorf("only %d points had light of several lamps", several)
+	}
+	if ahead < 100 {
+		t.Errorf("only %d faces were not there where a solid is not convex", ahead)
 	}
 	codes := []int64{codeOK, codeInvalid, codeRange, codeState}
 	found.check(t, map[string][]int64{"LightAt": codes, "FaceLight": codes})
@@ -170,6 +177,7 @@ func TestPartsOfTrianglesToTheLastBit(t *testing.T) {
 	t.Parallel()
 	m, found := newMaker(), codesFound{}
 	kinds := map[string]int{}
+	ahead := 0
 	for range rounds / 20 {
 		lamps, list, parts := m.lamps(), m.fewSolids(), m.parts()
 		a, b, c, n := m.placeBeside(list), m.pointWithin(6), m.pointWithin(6), m.pointWithin(2)
@@ -194,6 +202,12 @@ func TestPartsOfTrianglesToTheLastBit(t *testing.T) {
 		if code == impl.OK {
 			kinds[row(share > 0, share < 1)]++
 		}
+		if code == impl.ErrRange && len(list) <= impl.MaxSolids && !allWantConvex(list) {
+			ahead++
+		}
+	}
+	if ahead < 5 {
+		t.Errorf("only %d times were there no such parts where a solid is not convex", ahead)
 	}
 	for _, kind := range []string{"false true", "true true", "true false"} {
 		if kinds[kind] < 10 {

@@ -258,6 +258,25 @@ func TestFaceLightErrors(t *testing.T) {
 	same(t, "at another middle", all(code), all(codeOK))
 }
 
+func TestFaceLightOfSolidsThatAreNotConvex(t *testing.T) {
+	lamps := []impl.Lamp{exampleLamp}
+	// The box has 6 faces, and the other one 8: which faces there are does not depend on which solid is not convex.
+	for _, list := range [][]impl.Solid{{exampleBox, angle()}, {angle(), exampleBox}} {
+		for solid, s := range list {
+			faces := int64(len(s.Faces))
+			for face := range faces {
+				same(t, "a face", all(impl.FaceLight(lamps, list, int64(solid), face)), all(float32(0), codeState))
+			}
+			for _, face := range []int64{-1, faces, faces + 1, 99, math.MinInt64, math.MaxInt64, 1 << 32, 1 << 16} {
+				same(t, "no such face", all(impl.FaceLight(lamps, list, int64(solid), face)), all(float32(0), codeRange))
+			}
+		}
+		for _, solid := range []int64{-1, 2, 3, 99, math.MinInt64, math.MaxInt64, 1 << 32, 1 << 16} {
+			same(t, "no such solid", all(impl.FaceLight(lamps, list, solid, 0)), all(float32(0), codeRange))
+		}
+	}
+}
+
 func TestLitShare(t *testing.T) {
 	// With 2 parts the points are 0.125, 0.125 and 0.125, 0.625 and 0.625, 0.125.
 	a, b, c := impl.Point{}, impl.Point{1, 0, 0}, impl.Point{0, 1, 0}
@@ -331,10 +350,10 @@ func TestBrightestPart(t *testing.T) {
 func TestPartsThatAreNone(t *testing.T) {
 	a, b, c, up := impl.Point{}, impl.Point{1, 0, 0}, impl.Point{0, 1, 0}, impl.Point{0, 0, 1}
 	for _, parts := range []int64{0, -1, 17, 18, 100, math.MinInt64, math.MaxInt64, 1<<32 + 1, 1<<16 + 1, 1<<8 + 1} {
-		for _, list := range [][]impl.Solid{nil, {exampleBox}} {
+		// ErrRange is ahead of ErrState: of a solid that is not convex, and of a point without light.
+		for _, list := range [][]impl.Solid{nil, {exampleBox}, {angle()}, {exampleBox, notched()}} {
 			same(t, "LitShare", all(impl.LitShare(exampleLamp, list, a, b, c, parts)), all(float32(0), codeRange))
 			same(t, "BrightestPart", all(impl.BrightestPart([]impl.Lamp{exampleLamp}, list, a, b, c, up, parts)), all(impl.Point{}, float32(0), codeRange))
-			// ErrRange is ahead of ErrState.
 			same(t, "BrightestPart", all(impl.BrightestPart(nil, list, a, b, c, a, parts)), all(impl.Point{}, float32(0), codeRange))
 		}
 	}
@@ -342,6 +361,9 @@ func TestPartsThatAreNone(t *testing.T) {
 		same(t, "LitShare", all(impl.LitShare(exampleLamp, nil, a, b, c, parts)), all(float32(1), codeOK))
 		_, _, code := impl.BrightestPart([]impl.Lamp{exampleLamp}, nil, a, b, c, up, parts)
 		same(t, "BrightestPart", all(code), all(codeOK))
+		list := []impl.Solid{angle()}
+		same(t, "LitShare", all(impl.LitShare(exampleLamp, list, a, b, c, parts)), all(float32(0), codeState))
+		same(t, "BrightestPart", all(impl.BrightestPart([]impl.Lamp{exampleLamp}, list, a, b, c, up, parts)), all(impl.Point{}, float32(0), codeState))
 	}
 }
 
@@ -449,10 +471,16 @@ func TestRoomsOfSolidsThatAreNotConvex(t *testing.T) {
 			want := append(slices.Clone(c.none), codeState)
 			for _, list := range [][]impl.Solid{{s}, {slab(1, 2), s}, {slab(1, 2), slab(3, 4), slab(5, 6), slab(7, 8), slab(9, 10), s}, {s, exampleBox}} {
 				same(t, c.name, c.run(lamps, list, goodPoints, 1), want)
-				// What a function's own sentence names is asked behind it.
-				same(t, c.name, c.run(lamps, list, goodPoints, 99), want)
-				same(t, c.name, c.run(lamps, list, goodPoints, -1), want)
-				same(t, c.name, c.run([]impl.Lamp{exampleSun}, list, [4]impl.Point{}, 0), want)
+				// A face or parts that are not there are one more ErrRange, and so they are ahead of it.
+				other := want
+				if c.other {
+					other = append(slices.Clone(c.none), codeRange)
+				}
+				same(t, c.name, c.run(lamps, list, goodPoints, 99), other)
+				same(t, c.name, c.run(lamps, list, goodPoints, -1), other)
+				same(t, c.name, c.run([]impl.Lamp{exampleSun}, list, [4]impl.Point{}, 17), other)
+				// That a point has no light is asked behind it.
+				same(t, c.name, c.run([]impl.Lamp{exampleSun}, list, [4]impl.Point{}, 1), want)
 			}
 		}
 	}
