@@ -56,6 +56,12 @@ func word(value any) string {
 		return "{" + row(x.At, x.Sun, x.Strong) + "}"
 	case []impl.Lamp:
 		return rowOfList(x)
+	case impl.Map:
+		return "{" + rowOfList(x[:]) + "}"
+	case [4]impl.Spot:
+		return rowOfList(x[:])
+	case []impl.Spot:
+		return rowOfList(x)
 	case [2]float32:
 		return "<" + row(x[0], x[1]) + ">"
 	case [][2]float32:
@@ -97,6 +103,23 @@ func same(t *testing.T, name string, got, want []any) {
 
 // all makes a list of the results of a call.
 func all(values ...any) []any { return values }
+
+// otherTexts are those that a text becomes with a byte that is changed, added or gone.
+func otherTexts(text string) []string {
+	var others []string
+	for i := range len(text) + 1 {
+		if i < len(text) {
+			others = append(others, text[:i]+text[i+1:])
+		}
+		for _, b := range []byte{0, ' ', '\n', '/', '0', '1', '9', 'a', 'f', 'A', 'g', ':', '`', 0xff} {
+			others = append(others, text[:i]+string([]byte{b})+text[i:])
+			if i < len(text) && text[i] != b {
+				others = append(others, text[:i]+string([]byte{b})+text[i+1:])
+			}
+		}
+	}
+	return others
+}
 
 var (
 	infinite  = float32(math.Inf(1))

@@ -101,6 +101,10 @@ func scribble(result any) {
 		for i := range x[:cap(x)] {
 			x[:cap(x)][i] = [2]float32{-9, -9}
 		}
+	case []impl.Spot:
+		for i := range x[:cap(x)] {
+			x[:cap(x)][i] = impl.Spot{-9, -9}
+		}
 	}
 }
 

@@ -24,6 +24,7 @@ var chapters = []struct {
 	{rounds, viewCallsWithCodes, viewCallsWithoutCodes},
 	{rounds / 10, solidCallsWithCodes, solidCallsWithoutCodes},
 	{rounds / 10, shadowCallsWithCodes, shadowCallsWithoutCodes},
+	{rounds / 2, photoCallsWithCodes, photoCallsWithoutCodes},
 }
 
 // spaceCallsWithCodes are calls of all functions of chapter 1 that return a code.
@@ -142,7 +143,7 @@ func hasError(t *testing.T, c call) bool {
 	return true
 }
 
-// checkFinite fails if a number is not finite, or a plane, a camera or a solid not valid; numbers that are read may be any.
+// checkFinite fails if a number is not finite, or a plane, a camera, a solid or a map not valid; numbers that are read may be any.
 func checkFinite(t *testing.T, name string, results []any) {
 	t.Helper()
 	text := row(results...)
@@ -155,6 +156,8 @@ func checkFinite(t *testing.T, name string, results []any) {
 			good = good && impl.ValidCamera(x)
 		case impl.Solid:
 			good = good && impl.ValidSolid(x)
+		case impl.Map:
+			good = good && impl.ValidMap(x)
 		}
 	}
 	if !good {
