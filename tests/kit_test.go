@@ -76,12 +76,35 @@ func word(value any) string {
 		return "(" + row(x[0], x[1]) + ")"
 	case []int64:
 		return rowOfList(x)
+	case impl.Mark:
+		return "(" + row(x[0], x[1]) + ")"
+	case []impl.Mark:
+		return rowOfList(x)
+	case impl.Stroke:
+		return "{" + row(x.A, x.B, x.Dash) + "}"
+	case []impl.Stroke:
+		return rowOfList(x)
+	case impl.Sheet:
+		return wordOfSheet(x)
+	case []bool:
+		return rowOfList(x)
 	case string:
 		return fmt.Sprintf("%q", x)
-	case int64, int16, bool:
+	case int64, int16, int8, bool:
 		return fmt.Sprint(x)
 	}
 	panic(fmt.Sprintf("row does not write a %T", value))
+}
+
+// wordOfSheet writes the rows that have ink.
+func wordOfSheet(x impl.Sheet) string {
+	var words []string
+	for y, bits := range x {
+		if bits != 0 {
+			words = append(words, fmt.Sprintf("%d:%x", y, bits))
+		}
+	}
+	return "#" + strings.Join(words, "#")
 }
 
 // rowOfList writes a list; one that is nil is written as one that is empty.

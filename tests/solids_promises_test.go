@@ -105,6 +105,18 @@ func scribble(result any) {
 		for i := range x[:cap(x)] {
 			x[:cap(x)][i] = impl.Spot{-9, -9}
 		}
+	case []impl.Mark:
+		for i := range x[:cap(x)] {
+			x[:cap(x)][i] = impl.Mark{-9, -9}
+		}
+	case []impl.Stroke:
+		for i := range x[:cap(x)] {
+			x[:cap(x)][i] = impl.Stroke{A: impl.Mark{-9, -9}, Dash: -9}
+		}
+	case []bool:
+		for i := range x[:cap(x)] {
+			x[:cap(x)][i] = !x[:cap(x)][i]
+		}
 	}
 }
 

@@ -25,6 +25,7 @@ var chapters = []struct {
 	{rounds / 10, solidCallsWithCodes, solidCallsWithoutCodes},
 	{rounds / 10, shadowCallsWithCodes, shadowCallsWithoutCodes},
 	{rounds / 2, photoCallsWithCodes, photoCallsWithoutCodes},
+	{rounds / 20, drawingCallsWithCodes, drawingCallsWithoutCodes},
 }
 
 // spaceCallsWithCodes are calls of all functions of chapter 1 that return a code.
