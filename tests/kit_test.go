@@ -88,9 +88,19 @@ func word(value any) string {
 		return wordOfSheet(x)
 	case []bool:
 		return rowOfList(x)
+	case impl.Scene:
+		return "{" + row(x.Camera, x.Solids) + "}"
+	case impl.Claim:
+		return "{" + row(x.Kind, x.At, x.Solid, x.Face, x.Share, x.Free) + "}"
+	case []impl.Claim:
+		return rowOfList(x)
+	case [2]int64:
+		return "(" + row(x[0], x[1]) + ")"
+	case [][2]int64:
+		return rowOfList(x)
 	case string:
 		return fmt.Sprintf("%q", x)
-	case int64, int16, int8, bool:
+	case int64, int16, int8, int, bool:
 		return fmt.Sprint(x)
 	}
 	panic(fmt.Sprintf("row does not write a %T", value))

@@ -307,6 +307,11 @@ func wantHit(s impl.Solid, a, b impl.Point) (impl.Hit, int64) {
 	if code := codeOfConvex([]impl.Point{a, b}, s); code != codeOK {
 		return impl.Hit{}, code
 	}
+	return hitOf(s, a, b)
+}
+
+// hitOf is FirstHit of a convex solid and valid points.
+func hitOf(s impl.Solid, a, b impl.Point) (impl.Hit, int64) {
 	share, face := -infinite, -1
 	for i := range s.Faces {
 		x, _ := wantFacePlane(s, i)

@@ -117,6 +117,26 @@ func scribble(result any) {
 		for i := range x[:cap(x)] {
 			x[:cap(x)][i] = !x[:cap(x)][i]
 		}
+	case [][2]int64:
+		for i := range x[:cap(x)] {
+			x[:cap(x)][i] = [2]int64{-9, -9}
+		}
+	case [][2]impl.Spot:
+		for i := range x[:cap(x)] {
+			x[:cap(x)][i] = [2]impl.Spot{{-9, -9}, {-9, -9}}
+		}
+	case impl.Claim:
+		scribble(x.Free)
+	case []impl.Claim:
+		for _, c := range x {
+			scribble(c)
+		}
+		clear(x[:cap(x)])
+	case impl.Scene:
+		for _, s := range x.Solids {
+			scribble(s)
+		}
+		clear(x.Solids[:cap(x.Solids)])
 	}
 }
 

@@ -26,6 +26,7 @@ var chapters = []struct {
 	{rounds / 10, shadowCallsWithCodes, shadowCallsWithoutCodes},
 	{rounds / 2, photoCallsWithCodes, photoCallsWithoutCodes},
 	{rounds / 20, drawingCallsWithCodes, drawingCallsWithoutCodes},
+	{rounds / 20, witnessCallsWithCodes, witnessCallsWithoutCodes},
 }
 
 // spaceCallsWithCodes are calls of all functions of chapter 1 that return a code.
@@ -144,7 +145,7 @@ func hasError(t *testing.T, c call) bool {
 	return true
 }
 
-// checkFinite fails if a number is not finite, or a plane, a camera, a solid or a map not valid; numbers that are read may be any.
+// checkFinite fails if a number is not finite, or a plane, a camera, a solid, a map or a scene not valid; numbers that are read may be any.
 func checkFinite(t *testing.T, name string, results []any) {
 	t.Helper()
 	text := row(results...)
@@ -159,6 +160,8 @@ func checkFinite(t *testing.T, name string, results []any) {
 			good = good && impl.ValidSolid(x)
 		case impl.Map:
 			good = good && impl.ValidMap(x)
+		case impl.Scene:
+			good = good && impl.ValidScene(x)
 		}
 	}
 	if !good {
