@@ -26,7 +26,7 @@ var chapters = []struct {
 	{rounds / 10, shadowCallsWithCodes, shadowCallsWithoutCodes},
 	{rounds / 2, photoCallsWithCodes, photoCallsWithoutCodes},
 	{rounds / 20, drawingCallsWithCodes, drawingCallsWithoutCodes},
-	{rounds / 20, witnessCallsWithCodes, witnessCallsWithoutCodes},
+	{rounds / 40, witnessCallsWithCodes, witnessCallsWithoutCodes},
 }
 
 // spaceCallsWithCodes are calls of all functions of chapter 1 that return a code.

@@ -10,7 +10,7 @@ func TestClaimsToTheLastBit(t *testing.T) {
 	t.Parallel()
 	m, found := newMaker(), codesFound{}
 	kinds, zeros := map[int8]int{}, 0
-	for range rounds / 10 {
+	for range rounds / 20 {
 		x := m.scene()
 		same(t, "ValidScene "+row(x), all(impl.ValidScene(x)), all(codeOfScene(x) == codeOK))
 		for range 6 {
@@ -46,7 +46,7 @@ func TestChecksToTheLastBit(t *testing.T) {
 	t.Parallel()
 	m, found := newMaker(), codesFound{}
 	answers := map[string]int{}
-	for range rounds / 10 {
+	for range rounds / 20 {
 		x := m.scene()
 		for range 12 {
 			c := m.claim(x)
@@ -65,7 +65,7 @@ func TestChecksToTheLastBit(t *testing.T) {
 	}
 	for _, kind := range []int8{1, 2, 3} {
 		for _, yes := range []bool{true, false} {
-			if answers[row(kind, yes)] < 300 {
+			if answers[row(kind, yes)] < 150 {
 				t.Errorf("only %d claims of the kind %d were answered by %v", answers[row(kind, yes)], kind, yes)
 			}
 		}
@@ -78,7 +78,7 @@ func TestSightToTheLastBit(t *testing.T) {
 	t.Parallel()
 	m, found := newMaker(), codesFound{}
 	both, runs := map[bool]int{}, map[int]int{}
-	for range rounds / 10 {
+	for range rounds / 16 {
 		x, parts := m.scene(), m.parts()
 		found.compare(t, "SeenCorners", row(x), all(impl.SeenCorners(x)), two(wantSeenCorners(x)))
 		for range 3 {
@@ -101,7 +101,7 @@ func TestSightToTheLastBit(t *testing.T) {
 			return
 		}
 	}
-	if both[true] < 500 || both[false] < 500 || runs[0] < 500 || runs[1] < 500 || runs[2] < 50 {
+	if both[true] < 300 || both[false] < 300 || runs[0] < 300 || runs[1] < 300 || runs[2] < 50 {
 		t.Errorf("there were too few answers of one kind: %v, %v", both, runs)
 	}
 	codes := []int64{codeOK, codeInvalid, codeRange}
@@ -112,7 +112,7 @@ func TestSketchesToTheLastBit(t *testing.T) {
 	t.Parallel()
 	m, found := newMaker(), codesFound{}
 	drawn, left := 0, 0
-	for i := range rounds / 20 {
+	for i := range rounds / 40 {
 		x, parts := m.scene(), m.parts()
 		if i%10 == 0 {
 			x, parts = m.crowded(), 1+m.Int63n(4)
